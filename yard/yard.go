@@ -1,0 +1,70 @@
+// Package yard: a market for units of time on machines: see DOC.md.
+package yard
+
+import "yard/api"
+
+// Check tells whether a configuration is right (P3).
+func Check(c api.Config) api.Errno {
+	right := within(c.Ticks, 1, api.MaxTicks) &&
+		within(c.Capacity, 0, api.MaxCapacity) &&
+		within(c.Reserve, 0, api.MaxReserve) &&
+		within(c.Tenants, 1, api.MaxTenants) &&
+		within(c.Quota, 1, api.MaxQuota)
+	if !right {
+		return api.ErrConfig
+	}
+	return api.OK
+}
+
+// within tells whether a number is from least to greatest, both with it.
+func within(n int, least int, greatest int) bool {
+	return least <= n && n <= greatest
+}
+
+// Yard is a market.
+type Yard struct{}
+
+// Open opens a market (P7).
+func Open(c api.Config) (*Yard, api.Errno) { return nil, api.OK }
+
+// Submit makes a bid (P8).
+func (y *Yard) Submit(tenant int, ref int, job api.Job) api.Errno { return api.OK }
+
+// Cancel takes a bid back (P9).
+func (y *Yard) Cancel(tenant int, ref int) api.Errno { return api.OK }
+
+// Capacity tells how many units there are (P10).
+func (y *Yard) Capacity(from int, to int, units int) api.Errno { return api.OK }
+
+// Suspend suspends a tenant, or does so no more (P9).
+func (y *Yard) Suspend(tenant int, on bool) api.Errno { return api.OK }
+
+// Now tells the time (P11).
+func (y *Yard) Now() int { return 0 }
+
+// Left tells how many entries the log can still take (P7).
+func (y *Yard) Left() int { return 0 }
+
+// Look tells of a bid (P11).
+func (y *Yard) Look(tenant int, ref int) (api.Bid, api.Errno) { return api.Bid{}, api.OK }
+
+// Free tells how many units are free at a tick (P11).
+func (y *Yard) Free(t int) (int, api.Errno) { return 0, api.OK }
+
+// Tick lets a tick go by (P12).
+func (y *Yard) Tick() ([]api.Name, api.Errno) { return nil, api.OK }
+
+// Price tells what a bid that has won must have been worth at least (P13).
+func (y *Yard) Price(tenant int, ref int) (int, api.Errno) { return 0, api.OK }
+
+// Bill charges what can be charged (P14).
+func (y *Yard) Bill() ([]api.Invoice, api.Errno) { return nil, api.OK }
+
+// Pay books a payment (P15).
+func (y *Yard) Pay(tenant int, cents int) api.Errno { return api.OK }
+
+// Balance tells a tenant's payments less its charges (P15).
+func (y *Yard) Balance(tenant int) (int, api.Errno) { return 0, api.OK }
+
+// Invoices tells what a tenant was charged (P15).
+func (y *Yard) Invoices(tenant int) ([]api.Invoice, api.Errno) { return nil, api.OK }
