@@ -22,46 +22,101 @@ func within(n int, least int, greatest int) bool {
 }
 
 // Yard is a market.
-type Yard struct{}
+type Yard struct {
+	logged int // entries of the log
+	market *market
+}
 
 // Open opens a market (P7).
-func Open(c api.Config) (*Yard, api.Errno) { return nil, api.OK }
+func Open(c api.Config) (*Yard, api.Errno) {
+	e := Check(c)
+	if e != api.OK {
+		return nil, e
+	}
+	return &Yard{market: newMarket(c)}, api.OK
+}
+
+// log makes an entry; false, if the log is full.
+func (y *Yard) log() bool {
+	if y.logged >= api.MaxLog {
+		return false
+	}
+	y.logged++
+	return true
+}
 
 // Submit makes a bid (P8).
-func (y *Yard) Submit(tenant int, ref int, job api.Job) api.Errno { return api.OK }
+func (y *Yard) Submit(tenant int, ref int, job api.Job) api.Errno {
+	if !y.log() {
+		return api.ErrFull
+	}
+	return y.market.submit(api.Name{Tenant: tenant, Ref: ref}, job)
+}
 
 // Cancel takes a bid back (P9).
-func (y *Yard) Cancel(tenant int, ref int) api.Errno { return api.OK }
+func (y *Yard) Cancel(tenant int, ref int) api.Errno {
+	if !y.log() {
+		return api.ErrFull
+	}
+	return y.market.cancel(api.Name{Tenant: tenant, Ref: ref})
+}
 
 // Capacity tells how many units there are (P10).
-func (y *Yard) Capacity(from int, to int, units int) api.Errno { return api.OK }
+func (y *Yard) Capacity(from int, to int, units int) api.Errno {
+	if !y.log() {
+		return api.ErrFull
+	}
+	return y.market.setCapacity(from, to, units)
+}
 
 // Suspend suspends a tenant, or does so no more (P9).
-func (y *Yard) Suspend(tenant int, on bool) api.Errno { return api.OK }
+func (y *Yard) Suspend(tenant int, on bool) api.Errno {
+	if !y.log() {
+		return api.ErrFull
+	}
+	return y.market.suspend(tenant, on)
+}
 
 // Now tells the time (P11).
-func (y *Yard) Now() int { return 0 }
+func (y *Yard) Now() int { return y.market.time }
 
 // Left tells how many entries the log can still take (P7).
-func (y *Yard) Left() int { return 0 }
+func (y *Yard) Left() int { return api.MaxLog - y.logged }
 
 // Look tells of a bid (P11).
-func (y *Yard) Look(tenant int, ref int) (api.Bid, api.Errno) { return api.Bid{}, api.OK }
+func (y *Yard) Look(tenant int, ref int) (api.Bid, api.Errno) {
+	return y.market.look(api.Name{Tenant: tenant, Ref: ref})
+}
 
 // Free tells how many units are free at a tick (P11).
-func (y *Yard) Free(t int) (int, api.Errno) { return 0, api.OK }
+func (y *Yard) Free(t int) (int, api.Errno) { return y.market.freeAt(t) }
 
 // Tick lets a tick go by (P12).
-func (y *Yard) Tick() ([]api.Name, api.Errno) { return nil, api.OK }
+func (y *Yard) Tick() ([]api.Name, api.Errno) {
+	if !y.log() {
+		return nil, api.ErrFull
+	}
+	return nil, api.OK
+}
 
 // Price tells what a bid that has won must have been worth at least (P13).
 func (y *Yard) Price(tenant int, ref int) (int, api.Errno) { return 0, api.OK }
 
 // Bill charges what can be charged (P14).
-func (y *Yard) Bill() ([]api.Invoice, api.Errno) { return nil, api.OK }
+func (y *Yard) Bill() ([]api.Invoice, api.Errno) {
+	if !y.log() {
+		return nil, api.ErrFull
+	}
+	return nil, api.OK
+}
 
 // Pay books a payment (P15).
-func (y *Yard) Pay(tenant int, cents int) api.Errno { return api.OK }
+func (y *Yard) Pay(tenant int, cents int) api.Errno {
+	if !y.log() {
+		return api.ErrFull
+	}
+	return api.OK
+}
 
 // Balance tells a tenant's payments less its charges (P15).
 func (y *Yard) Balance(tenant int) (int, api.Errno) { return 0, api.OK }
