@@ -96,7 +96,7 @@ func (y *Yard) Tick() ([]api.Name, api.Errno) {
 	if !y.log() {
 		return nil, api.ErrFull
 	}
-	return nil, api.OK
+	return y.market.tick()
 }
 
 // Price tells what a bid that has won must have been worth at least (P13).
