@@ -2,6 +2,7 @@ package yard_test
 
 import (
 	"math/rand"
+	"slices"
 	"testing"
 
 	"yard/api"
@@ -12,10 +13,12 @@ import (
 type model struct {
 	c         api.Config
 	time      int
-	entries   int
+	log       []call
 	bids      []*modelBid // the older ones first
 	suspended map[int]bool
 	units     map[int]int
+	paid      map[int]int
+	invoices  []api.Invoice
 }
 
 type modelBid struct {
@@ -23,10 +26,76 @@ type modelBid struct {
 	job     api.Job
 	arrival int
 	fate    api.Bid
+	entry   int // of the log: the call that submitted it
+	charged bool
+}
+
+// call is one of the calls that are logged, with what is handed in.
+type call struct {
+	kind     string
+	tenant   int
+	ref      int
+	job      api.Job
+	from, to int
+	units    int
+	on       bool
+	cents    int
+}
+
+type answer struct {
+	names    []api.Name
+	invoices []api.Invoice
+	e        api.Errno
+}
+
+// of makes the call of a market.
+func (x call) of(y *yard.Yard) (a answer) {
+	switch x.kind {
+	case "Submit":
+		a.e = y.Submit(x.tenant, x.ref, x.job)
+	case "Cancel":
+		a.e = y.Cancel(x.tenant, x.ref)
+	case "Capacity":
+		a.e = y.Capacity(x.from, x.to, x.units)
+	case "Suspend":
+		a.e = y.Suspend(x.tenant, x.on)
+	case "Tick":
+		a.names, a.e = y.Tick()
+	case "Bill":
+		a.invoices, a.e = y.Bill()
+	case "Pay":
+		a.e = y.Pay(x.tenant, x.cents)
+	}
+	return a
+}
+
+// make makes the call of the model.
+func (m *model) make(x call) (a answer) {
+	if len(m.log) == 300 {
+		return answer{e: api.ErrFull}
+	}
+	switch x.kind {
+	case "Submit":
+		a.e = m.submit(x.tenant, x.ref, x.job)
+	case "Cancel":
+		a.e = m.cancel(x.tenant, x.ref)
+	case "Capacity":
+		a.e = m.capacity(x.from, x.to, x.units)
+	case "Suspend":
+		a.e = m.suspend(x.tenant, x.on)
+	case "Tick":
+		a.names, a.e = m.tick()
+	case "Bill":
+		a.invoices = m.bill()
+	case "Pay":
+		a.e = m.pay(x.tenant, x.cents)
+	}
+	m.log = append(m.log, x)
+	return a
 }
 
 func newModel(c api.Config) *model {
-	m := &model{c: c, suspended: map[int]bool{}, units: map[int]int{}}
+	m := &model{c: c, suspended: map[int]bool{}, units: map[int]int{}, paid: map[int]int{}}
 	for t := range c.Ticks {
 		m.units[t] = c.Capacity
 	}
@@ -68,8 +137,6 @@ func (m *model) inUse(t int) int {
 func (m *model) submit(tenant, ref int, j api.Job) api.Errno {
 	arrival := max(j.Arrive, m.time)
 	switch {
-	case m.entries == 300:
-		return api.ErrFull
 	case m.noTenant(tenant):
 		return api.ErrTenant
 	case m.suspended[tenant]:
@@ -81,15 +148,13 @@ func (m *model) submit(tenant, ref int, j api.Job) api.Errno {
 	case m.pendingOf(tenant) == m.c.Quota:
 		return api.ErrQuota
 	}
-	m.bids = append(m.bids, &modelBid{name(tenant, ref), j, arrival, pending()})
+	m.bids = append(m.bids, &modelBid{name: name(tenant, ref), job: j, arrival: arrival, fate: pending(), entry: len(m.log)})
 	return api.OK
 }
 
 func (m *model) cancel(tenant, ref int) api.Errno {
 	b := m.bid(tenant, ref)
 	switch {
-	case m.entries == 300:
-		return api.ErrFull
 	case m.noTenant(tenant):
 		return api.ErrTenant
 	case b == nil:
@@ -102,10 +167,7 @@ func (m *model) cancel(tenant, ref int) api.Errno {
 }
 
 func (m *model) suspend(tenant int, on bool) api.Errno {
-	switch {
-	case m.entries == 300:
-		return api.ErrFull
-	case m.noTenant(tenant):
+	if m.noTenant(tenant) {
 		return api.ErrTenant
 	}
 	m.suspended[tenant] = on
@@ -113,10 +175,7 @@ func (m *model) suspend(tenant int, on bool) api.Errno {
 }
 
 func (m *model) capacity(from, to, units int) api.Errno {
-	switch {
-	case m.entries == 300:
-		return api.ErrFull
-	case from < m.time || from >= to || to > m.c.Ticks || units < 0 || units > 100000:
+	if from < m.time || from >= to || to > m.c.Ticks || units < 0 || units > 100000 {
 		return api.ErrArg
 	}
 	for t := from; t < to; t++ {
@@ -157,10 +216,7 @@ func (m *model) ahead(a, b int) bool {
 }
 
 func (m *model) tick() ([]api.Name, api.Errno) {
-	switch {
-	case m.entries == 300:
-		return nil, api.ErrFull
-	case m.time == m.c.Ticks:
+	if m.time == m.c.Ticks {
 		return nil, api.ErrOver
 	}
 	t := m.time
@@ -193,10 +249,57 @@ func (m *model) tick() ([]api.Name, api.Errno) {
 	return started, api.OK
 }
 
-// agrees asks everything that can be asked of a market, and whether the model says the same.
+// wins tells whether a bid is Won in the end of a replay of the log with the value v. Bills and payments are left out: no bid's fate hangs on them.
+func (m *model) wins(b *modelBid, v int) bool {
+	replay := newModel(m.c)
+	for i, x := range m.log {
+		if i == b.entry {
+			x.job.Value = v
+		}
+		if x.kind == "Bill" || x.kind == "Pay" {
+			continue
+		}
+		replay.make(x)
+	}
+	return replay.bid(b.name.Tenant, b.name.Ref).fate.State == api.Won
+}
+
+// price tries one value after the other, from 1 on.
+func (m *model) price(b *modelBid) int {
+	v := 1
+	for !m.wins(b, v) {
+		v++
+	}
+	return v
+}
+
+func (m *model) bill() []api.Invoice {
+	var charged []api.Invoice
+	for _, b := range m.bids {
+		if b.fate.State == api.Won && !b.charged && m.time > b.job.Deadline-b.job.Len {
+			b.charged = true
+			charged = append(charged, invoice(b.name.Tenant, b.name.Ref, m.price(b)))
+		}
+	}
+	m.invoices = append(m.invoices, charged...)
+	return charged
+}
+
+func (m *model) pay(tenant, cents int) api.Errno {
+	switch {
+	case m.noTenant(tenant):
+		return api.ErrTenant
+	case cents < 1 || cents > 1<<30:
+		return api.ErrArg
+	}
+	m.paid[tenant] += cents
+	return api.OK
+}
+
+// agrees asks everything that can be asked of a market but prices, and whether the model says the same.
 func (m *model) agrees(t *testing.T, y *yard.Yard) {
 	t.Helper()
-	wantLeft(t, y, 300-m.entries)
+	wantLeft(t, y, 300-len(m.log))
 	wantNow(t, y, m.time)
 	for i := range m.c.Ticks {
 		want := m.units[i] - m.inUse(i)
@@ -214,6 +317,45 @@ func (m *model) agrees(t *testing.T, y *yard.Yard) {
 				wantLook(t, y, tenant, ref, api.Bid{}, api.ErrRef)
 			default:
 				wantLook(t, y, tenant, ref, b.fate, api.OK)
+			}
+		}
+		m.agreesOnAccount(t, y, tenant)
+	}
+}
+
+func (m *model) agreesOnAccount(t *testing.T, y *yard.Yard, tenant int) {
+	t.Helper()
+	if m.noTenant(tenant) {
+		wantNoAccount(t, y, tenant)
+		return
+	}
+	balance := m.paid[tenant]
+	var charged []api.Invoice
+	for _, v := range m.invoices {
+		if v.Tenant == tenant {
+			balance -= v.Cents
+			charged = append(charged, v)
+		}
+	}
+	wantBalance(t, y, tenant, balance)
+	wantInvoices(t, y, tenant, charged...)
+}
+
+// agreesOnPrices asks for the price of every bid that there is, and of some that there are not.
+func (m *model) agreesOnPrices(t *testing.T, y *yard.Yard) {
+	t.Helper()
+	for tenant := -1; tenant <= m.c.Tenants; tenant++ {
+		for ref := range refs {
+			b := m.bid(tenant, ref)
+			switch {
+			case m.noTenant(tenant):
+				wantNoPrice(t, y, tenant, ref, api.ErrTenant)
+			case b == nil:
+				wantNoPrice(t, y, tenant, ref, api.ErrRef)
+			case b.fate.State != api.Won:
+				wantNoPrice(t, y, tenant, ref, api.ErrState)
+			default:
+				wantPrice(t, y, tenant, ref, m.price(b))
 			}
 		}
 	}
@@ -244,8 +386,8 @@ func randomJob(r *rand.Rand, c api.Config, time int) api.Job {
 		j.Len = c.Ticks + 1
 	case 7:
 		j.Deadline = arrive + n - 1
-	case 8:
-		j.Units, j.Value = 1+r.Intn(1000), 1+r.Intn(1<<20)
+	case 8: // too many units to win: the model would try every value
+		j.Units, j.Value = 9+r.Intn(992), 1+r.Intn(1<<20)
 	case 9:
 		j.Deadline = c.Ticks + 1
 	}
@@ -256,41 +398,42 @@ func randomConfig(r *rand.Rand) api.Config {
 	return api.Config{Ticks: 1 + r.Intn(50), Capacity: r.Intn(9), Reserve: r.Intn(3), Tenants: 1 + r.Intn(4), Quota: 1 + r.Intn(8)}
 }
 
-// step makes one random call of a market and of the model, and tells whether it was a Tick answered OK.
-func step(t *testing.T, r *rand.Rand, y *yard.Yard, m *model) bool {
-	t.Helper()
-	ticked := false
-	tenant, ref := r.Intn(m.c.Tenants), r.Intn(refs)
+// randomCall draws a call of any kind but Bill.
+func randomCall(r *rand.Rand, m *model) call {
+	x := call{kind: "Submit", tenant: r.Intn(m.c.Tenants), ref: r.Intn(refs), job: randomJob(r, m.c, m.time)}
 	switch r.Intn(40) {
 	case 0:
-		tenant = -1
+		x.tenant = -1
 	case 1:
-		tenant = m.c.Tenants
+		x.tenant = m.c.Tenants
 	}
 	switch r.Intn(20) {
 	case 0, 1:
-		wantCancel(t, y, tenant, ref, m.cancel(tenant, ref))
+		x.kind = "Cancel"
 	case 2:
-		on := r.Intn(3) == 0
-		wantSuspend(t, y, tenant, on, m.suspend(tenant, on))
+		x.kind, x.on = "Suspend", r.Intn(3) == 0
 	case 3:
-		from := m.time + r.Intn(4) - 1
-		to, units := from+r.Intn(4), r.Intn(9)-1
-		wantCapacity(t, y, from, to, units, m.capacity(from, to, units))
+		x.kind, x.from, x.units = "Capacity", m.time+r.Intn(4)-1, r.Intn(9)-1
+		x.to = x.from + r.Intn(4)
 	case 4, 5:
-		names, e := m.tick()
-		ticked = e == api.OK
-		if ticked {
-			wantTick(t, y, names...)
-		} else {
-			wantNoTick(t, y, e)
-		}
-	default:
-		j := randomJob(r, m.c, m.time)
-		wantSubmit(t, y, tenant, ref, j, m.submit(tenant, ref, j))
+		x.kind = "Tick"
+	case 6:
+		x.kind, x.cents = "Pay", r.Intn(20)-1
 	}
-	m.entries = min(m.entries+1, 300)
-	return ticked
+	return x
+}
+
+// both makes a call of a market and of the model, and tells whether it was a Tick answered OK.
+func both(t *testing.T, x call, y *yard.Yard, m *model) bool {
+	t.Helper()
+	want, got := m.make(x), x.of(y)
+	if got.e != want.e || !slices.Equal(got.names, want.names) || !slices.Equal(got.invoices, want.invoices) {
+		t.Errorf("P7 to P15: the call %+v is answered %+v, want %+v", x, got, want)
+	}
+	if got.e != api.OK && (got.names != nil || got.invoices != nil) {
+		t.Errorf("P1: the call %+v is answered %+v", x, got)
+	}
+	return x.kind == "Tick" && want.e == api.OK
 }
 
 func TestRandomCallsAgainstTheModel(t *testing.T) {
@@ -299,10 +442,44 @@ func TestRandomCallsAgainstTheModel(t *testing.T) {
 		c := randomConfig(r)
 		y, m := open(t, c), newModel(c)
 		for range 310 {
-			step(t, r, y, m)
+			both(t, randomCall(r, m), y, m)
 			m.agrees(t, y)
 			if t.Failed() {
-				t.Fatalf("configuration %+v, entry %d", c, m.entries)
+				t.Fatalf("configuration %+v, entry %d", c, len(m.log))
+			}
+		}
+	}
+}
+
+// smallConfig is of a market that is over soon, so that every price can be tried value by value.
+func smallConfig(r *rand.Rand) api.Config {
+	return api.Config{Ticks: 1 + r.Intn(10), Capacity: 1 + r.Intn(6), Reserve: max(0, r.Intn(5)-2), Tenants: 1 + r.Intn(4), Quota: 1 + r.Intn(6)}
+}
+
+// smallCall draws a call of any kind; ticks and bills come often.
+func smallCall(r *rand.Rand, m *model) call {
+	switch r.Intn(10) {
+	case 0:
+		return call{kind: "Tick"}
+	case 1:
+		return call{kind: "Bill"}
+	}
+	return randomCall(r, m)
+}
+
+func TestRandomPricesAgainstTheModel(t *testing.T) {
+	r := rand.New(rand.NewSource(3))
+	for range 600 {
+		c := smallConfig(r)
+		y, m := open(t, c), newModel(c)
+		for i := range 60 {
+			both(t, smallCall(r, m), y, m)
+			m.agrees(t, y)
+			if i%6 == 5 {
+				m.agreesOnPrices(t, y)
+			}
+			if t.Failed() {
+				t.Fatalf("configuration %+v, log %+v", c, m.log)
 			}
 		}
 	}

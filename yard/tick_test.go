@@ -43,32 +43,6 @@ func wantNoTick(t *testing.T, y *yard.Yard, want api.Errno) {
 	wantNow(t, y, now)
 }
 
-// The document's example, but for prices and bills.
-func TestTickExample(t *testing.T) {
-	y := open(t, ordinary())
-	wantSubmit(t, y, 0, 1, job(0, 4, 2, 3, 60), api.OK)
-	wantSubmit(t, y, 1, 1, job(0, 6, 1, 2, 16), api.OK)
-	wantSubmit(t, y, 2, 1, job(0, 2, 2, 1, 30), api.OK)
-	wantSubmit(t, y, 2, 1, job(0, 6, 1, 1, 5), api.ErrRef)
-	wantSubmit(t, y, 2, 2, job(3, 4, 2, 1, 9), api.ErrJob)
-	wantTick(t, y, name(2, 1), name(0, 1))
-	wantFree(t, y, 0, 0, 4, 4, 4, 4)
-	wantLook(t, y, 1, 1, pending(), api.OK)
-	wantCapacity(t, y, 1, 2, 3, api.ErrUsed)
-	wantTick(t, y)
-	wantTick(t, y, name(1, 1))
-	wantLeft(t, y, 291)
-	wantFree(t, y, 0, 0, 2, 4, 4, 4)
-	wantLook(t, y, 0, 1, won(0), api.OK)
-	wantLook(t, y, 1, 1, won(2), api.OK)
-	wantLook(t, y, 2, 1, won(0), api.OK)
-	wantTick(t, y)
-	wantTick(t, y)
-	wantTick(t, y)
-	wantNow(t, y, 6)
-	wantNoTick(t, y, api.ErrOver)
-}
-
 func TestTickOver(t *testing.T) {
 	for _, ticks := range []int{1, 2, 63, 64} {
 		c := ordinary()
